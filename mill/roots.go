@@ -20,7 +20,7 @@ type Roots[V any] struct{ Mill[V] }
 // Level: x, brought up by an even number of places, and half of that number.
 func (r Roots[V]) Level(x V) (u V, h V) {
 	t := r.Two(api.OpAnd, r.One(api.OpClz, x), r.Word(even))
-	return r.lift(x, t), r.by(api.OpShr, t, 1)
+	return lift(r.Mill, x, t), by(r.Mill, api.OpShr, t, 1)
 }
 
 // Rsqrt: z, which by 2^h is 1 by the root of x, and h.
@@ -29,8 +29,8 @@ func (r Roots[V]) Rsqrt(x V) (z V, h V) {
 	z = r.Two(api.OpSubs, r.Word(rsqrtFrom), r.mulq(r.Word(rsqrtSlope), u))
 	for range steps {
 		// u is a quarter of x brought up: what should be 1 is 4 times the product.
-		e := r.lack(r.by(api.OpShl, r.mulq(u, r.mulq(z, z)), 2))
-		z = r.Two(api.OpAdds, z, r.by(api.OpSar, r.mulq(z, e), 1))
+		e := r.lack(by(r.Mill, api.OpShl, r.mulq(u, r.mulq(z, z)), 2))
+		z = r.Two(api.OpAdds, z, by(r.Mill, api.OpSar, r.mulq(z, e), 1))
 	}
 	return z, h
 }
@@ -49,19 +49,14 @@ func (r Roots[V]) Sqrt(x V) V {
 // Recip: z, which by 2^h is 1 by x, and h.
 func (r Roots[V]) Recip(x V) (z V, h V) {
 	t := r.One(api.OpClz, x)
-	v := r.lift(x, t)
+	v := lift(r.Mill, x, t)
 	z = r.Two(api.OpSubs, r.Word(recipFrom), v)
 	for range steps {
 		// z is half of 1 by v, which itself may be no word: what should be 1 is twice the product.
-		e := r.lack(r.by(api.OpShl, r.mulq(v, z), 1))
+		e := r.lack(by(r.Mill, api.OpShl, r.mulq(v, z), 1))
 		z = r.Two(api.OpAdds, z, r.mulq(z, e))
 	}
-	return z, r.by(api.OpSub, t, 1)
-}
-
-// lift: x, brought up by t places, and down by two, so that it is below 1.
-func (r Roots[V]) lift(x V, t V) V {
-	return r.by(api.OpShr, r.Two(api.OpShl, x, t), 2)
+	return z, by(r.Mill, api.OpSub, t, 1)
 }
 
 // lack: what a product that should be 1 lacks.
@@ -71,6 +66,3 @@ func (r Roots[V]) lack(product V) V {
 
 // mulq: the product of Q2.30.
 func (r Roots[V]) mulq(a V, b V) V { return r.Two(api.OpMulq, a, b) }
-
-// by: what an operation reckons of a and a word.
-func (r Roots[V]) by(op int, a V, n int32) V { return r.Two(op, a, r.Word(n)) }
