@@ -1,46 +1,14 @@
 package code_test
 
 import (
-	"math"
 	"testing"
 
 	"astrolabe/api"
+	"astrolabe/chart"
 	"astrolabe/code"
 )
 
 // The reckoning of the tests is the chapter's, by numbers alone: words are sums of products, and bits are quotients and rests.
-
-// shapes are those of the operations, in order, as chapter 6 lists them.
-var shapes = func() []string {
-	var l []string
-	for _, r := range []struct {
-		times int
-		shape string
-	}{
-		{23, "dab-"}, {7, "da--"}, {1, "da-s"}, {1, "da-u"}, {1, "d--u"}, {5, "da-u"}, {1, "---u"}, {1, "d--u"}, {1, "-a--"}, {2, "----"},
-	} {
-		for range r.times {
-			l = append(l, r.shape)
-		}
-	}
-	return l
-}()
-
-// shapeOf is the shape of an operation.
-func shapeOf(op int) string { return shapes[op-1] }
-
-// bounds are the least and the greatest that a letter allows.
-func bounds(letter byte) (int, int) {
-	switch letter {
-	case 's':
-		return -32768, 32767
-	case 'u':
-		return 0, 65535
-	case '-':
-		return 0, 0
-	}
-	return 0, 31
-}
 
 // fault is the error of a field that is not within its letter's bounds.
 func fault(letter byte) api.Errno {
@@ -48,28 +16,6 @@ func fault(letter byte) api.Errno {
 		return api.ErrForm
 	}
 	return api.ErrRange
-}
-
-// made is an instruction of four fields.
-func made(op int, fields [4]int) api.Ins {
-	return api.Ins{Op: op, D: fields[0], A: fields[1], B: fields[2], N: fields[3]}
-}
-
-// least and greatest are an operation's instructions with all fields at the least, and at the greatest.
-func least(op int) [4]int {
-	var l [4]int
-	for k := range l {
-		l[k], _ = bounds(shapeOf(op)[k])
-	}
-	return l
-}
-
-func greatest(op int) [4]int {
-	var l [4]int
-	for k := range l {
-		_, l[k] = bounds(shapeOf(op)[k])
-	}
-	return l
 }
 
 // weights are what D, A, B and N weigh in a word; an operation weighs 2^26.
@@ -93,8 +39,8 @@ func errorOf(op int, fields [4]int) api.Errno {
 		return api.ErrArg
 	}
 	for k, x := range fields {
-		if low, high := bounds(shapeOf(op)[k]); x < low || x > high {
-			return fault(shapeOf(op)[k])
+		if low, high := chart.Bounds(chart.Shape(op)[k]); x < low || x > high {
+			return fault(chart.Shape(op)[k])
 		}
 	}
 	return api.OK
@@ -114,7 +60,7 @@ func free(op int) []int {
 	used := map[int]bool{}
 	for k, first := range []int{21, 16, 11, 0} {
 		size := 5
-		switch shapeOf(op)[k] {
+		switch chart.Shape(op)[k] {
 		case '-':
 			size = 0
 		case 's', 'u':
@@ -133,43 +79,10 @@ func free(op int) []int {
 	return l
 }
 
-// others are numbers that are no operation's: the ends, and such as are one's when cut to fewer bits.
-func others() []int {
-	l := []int{math.MinInt, math.MinInt + 1, math.MinInt32, -65536, -43, -2, -1, 0, 44, 45, 63, 64, 65, 107, 128, 129, 256, 257, 299, 1<<16 + 1, 1<<32 + 1, 1<<32 + 43, -1<<32 + 1, math.MaxInt32, math.MaxInt - 1, math.MaxInt}
-	for op := 46; op < 400; op++ {
-		l = append(l, op)
-	}
-	return l
-}
-
-// beyond are numbers that a letter does not allow: next to its bounds, the ends, and such as it allows when cut to fewer bits.
-func beyond(letter byte) []int {
-	low, high := bounds(letter)
-	l := []int{low - 1, high + 1, math.MinInt, math.MaxInt}
-	for _, x := range []int{-2, -1, 1, -32, -31, 31, 32, 33, 63, 64, 2048, -32769, -32768, 32768, 65535, 65536, 65537, -65536, -65535, 131072, 1 << 21, 1 << 26, 1 << 32, 1<<32 + 1, -1 << 32, 1<<63 - 32} {
-		if x < low || x > high {
-			l = append(l, x)
-		}
-	}
-	return l
-}
-
-// within are numbers that a letter allows.
-func within(letter byte) []int {
-	low, high := bounds(letter)
-	l := []int{low, high}
-	for _, x := range []int{-32767, -256, -255, -1, 0, 1, 2, 15, 16, 17, 30, 31, 32, 255, 256, 2047, 2048, 32766, 32767, 32768, 65534} {
-		if x >= low && x <= high {
-			l = append(l, x)
-		}
-	}
-	return l
-}
-
 // checkIns holds what all three calls say of an instruction, there and back.
 func checkIns(t *testing.T, op int, fields [4]int) {
 	t.Helper()
-	i, e := made(op, fields), errorOf(op, fields)
+	i, e := chart.Ins(op, fields), errorOf(op, fields)
 	if got := code.Check(i); got != e {
 		t.Fatalf("Check(%+v) = %v, want %v", i, got, e)
 	}
@@ -202,12 +115,6 @@ func checkUndecoded(t *testing.T, w uint32, e api.Errno) {
 }
 
 // P13.1
-
-func TestShapesOfTheTests(t *testing.T) {
-	if len(shapes) != api.OpHalt || shapeOf(api.OpRem) != "dab-" || shapeOf(api.OpClz) != "da--" || shapeOf(api.OpAddi) != "da-s" || shapeOf(api.OpLui) != "d--u" || shapeOf(api.OpJump) != "---u" || shapeOf(api.OpJal) != "d--u" || shapeOf(api.OpJr) != "-a--" {
-		t.Fatalf("shapes are %q", shapes)
-	}
-}
 
 func TestCheckByExactAnswers(t *testing.T) {
 	for _, x := range []struct {
@@ -260,7 +167,7 @@ func TestOperationsThatAre(t *testing.T) {
 }
 
 func TestOperationsThatAreNone(t *testing.T) {
-	for _, op := range others() {
+	for _, op := range chart.Others() {
 		if e := code.Check(api.Ins{Op: op}); e != api.ErrArg {
 			t.Errorf("Check of operation %d: %v, want %v", op, e, api.ErrArg)
 		}
@@ -272,10 +179,10 @@ func TestOperationsThatAreNone(t *testing.T) {
 
 func TestEachFieldByItself(t *testing.T) {
 	for op := 1; op <= 43; op++ {
-		for _, usual := range [][4]int{{}, least(op), greatest(op)} {
+		for _, usual := range [][4]int{{}, chart.Least(op), chart.Greatest(op)} {
 			for k := range 4 {
-				letter := shapeOf(op)[k]
-				for _, x := range append(within(letter), beyond(letter)...) {
+				letter := chart.Shape(op)[k]
+				for _, x := range append(chart.Within(letter), chart.Beyond(letter)...) {
 					fields := usual
 					fields[k] = x
 					checkIns(t, op, fields)
@@ -288,11 +195,11 @@ func TestEachFieldByItself(t *testing.T) {
 func TestEachFieldsErrorIsItsLetters(t *testing.T) {
 	for op := 1; op <= 43; op++ {
 		for k := range 4 {
-			letter := shapeOf(op)[k]
-			for _, x := range beyond(letter) {
-				fields := greatest(op)
+			letter := chart.Shape(op)[k]
+			for _, x := range chart.Beyond(letter) {
+				fields := chart.Greatest(op)
 				fields[k] = x
-				if e := code.Check(made(op, fields)); e != fault(letter) {
+				if e := code.Check(chart.Ins(op, fields)); e != fault(letter) {
 					t.Errorf("Check of operation %d with field %d of %d: %v, want %v", op, k, x, e, fault(letter))
 				}
 			}
@@ -303,15 +210,15 @@ func TestEachFieldsErrorIsItsLetters(t *testing.T) {
 func TestTwoWrongFieldsTellTheFirstOnesError(t *testing.T) {
 	told := map[[2]api.Errno]bool{}
 	for op := 1; op <= 43; op++ {
-		shape := shapeOf(op)
+		shape := chart.Shape(op)
 		for k := range 4 {
 			for l := k + 1; l < 4; l++ {
 				told[[2]api.Errno{fault(shape[k]), fault(shape[l])}] = true
-				for _, x := range beyond(shape[k]) {
-					for _, y := range beyond(shape[l]) {
+				for _, x := range chart.Beyond(shape[k]) {
+					for _, y := range chart.Beyond(shape[l]) {
 						fields := [4]int{}
 						fields[k], fields[l] = x, y
-						if e := code.Check(made(op, fields)); e != fault(shape[k]) {
+						if e := code.Check(chart.Ins(op, fields)); e != fault(shape[k]) {
 							t.Fatalf("Check of operation %d with %v: %v, want %v", op, fields, e, fault(shape[k]))
 						}
 						checkIns(t, op, fields)
@@ -328,10 +235,10 @@ func TestTwoWrongFieldsTellTheFirstOnesError(t *testing.T) {
 func TestManyWrongFieldsTellTheFirstOnesError(t *testing.T) {
 	for op := 1; op <= 43; op++ {
 		for which := range 16 {
-			fields, w := greatest(op), which
+			fields, w := chart.Greatest(op), which
 			for k := range 4 {
 				if w%2 == 1 {
-					fields[k] = beyond(shapeOf(op)[k])[k]
+					fields[k] = chart.Beyond(chart.Shape(op)[k])[k]
 				}
 				w /= 2
 			}
@@ -375,18 +282,18 @@ func TestEncodeByExactAnswers(t *testing.T) {
 
 func TestAllFieldsAtTheirEnds(t *testing.T) {
 	for op := 1; op <= 43; op++ {
-		checkIns(t, op, least(op))
-		checkIns(t, op, greatest(op))
+		checkIns(t, op, chart.Least(op))
+		checkIns(t, op, chart.Greatest(op))
 	}
 }
 
 func TestEncodeOfWhatMayNotBe(t *testing.T) {
 	for op := 1; op <= 43; op++ {
 		for k := range 4 {
-			for _, x := range beyond(shapeOf(op)[k]) {
-				fields := greatest(op)
+			for _, x := range chart.Beyond(chart.Shape(op)[k]) {
+				fields := chart.Greatest(op)
 				fields[k] = x
-				i := made(op, fields)
+				i := chart.Ins(op, fields)
 				if w, e := code.Encode(i); w != 0 || e != code.Check(i) || e == api.OK {
 					t.Errorf("Encode(%+v) = %#x, %v", i, w, e)
 				}
@@ -405,7 +312,7 @@ func TestDecodeOfNoOperation(t *testing.T) {
 	for _, w := range []uint32{0, 1, 1<<26 - 1, 44 << 26, 63 << 26, 1<<32 - 1, 1<<32 - 2} {
 		checkUndecoded(t, w, api.ErrArg)
 	}
-	for _, op := range append([]int{0}, others()...) {
+	for _, op := range append([]int{0}, chart.Others()...) {
 		if op < 0 || op > 63 {
 			continue
 		}
@@ -420,7 +327,7 @@ func TestDecodeOfNoOperation(t *testing.T) {
 
 func TestDecodeOfBitsThatAreToldToBeNought(t *testing.T) {
 	for op := 1; op <= 43; op++ {
-		for _, fields := range [][4]int{{}, least(op), greatest(op)} {
+		for _, fields := range [][4]int{{}, chart.Least(op), chart.Greatest(op)} {
 			for _, n := range free(op) {
 				checkUndecoded(t, wordOf(op, fields)+power(n), api.ErrForm)
 				for _, m := range free(op) {
@@ -442,7 +349,7 @@ func TestDecodeOfAllBitsThatAreToldToBeNought(t *testing.T) {
 		if all == 0 { // D, A and N fill a word.
 			continue
 		}
-		for _, fields := range [][4]int{{}, least(op), greatest(op)} {
+		for _, fields := range [][4]int{{}, chart.Least(op), chart.Greatest(op)} {
 			checkUndecoded(t, wordOf(op, fields)+all, api.ErrForm)
 		}
 	}
@@ -452,7 +359,7 @@ func TestDecodeOfHighestBitOfN(t *testing.T) {
 	for op := 1; op <= 43; op++ {
 		for _, low := range []uint32{32768, 32769, 40000, 65534, 65535} {
 			w, n := uint32(op)*power(26)+low, int(low)
-			switch shapeOf(op)[2:] {
+			switch chart.Shape(op)[2:] {
 			case "-s":
 				checkDecoded(t, w, api.Ins{Op: op, N: n - 65536})
 			case "-u":
@@ -474,8 +381,8 @@ func TestDecodeOfHighestBitOfN(t *testing.T) {
 
 func TestAllNumbersOfEachOperation(t *testing.T) {
 	for op := 1; op <= 43; op++ {
-		low, high := bounds(shapeOf(op)[3])
-		for _, usual := range [][4]int{{}, greatest(op)} {
+		low, high := chart.Bounds(chart.Shape(op)[3])
+		for _, usual := range [][4]int{{}, chart.Greatest(op)} {
 			for n := low; n <= high; n++ {
 				fields := usual
 				fields[3] = n
@@ -487,10 +394,10 @@ func TestAllNumbersOfEachOperation(t *testing.T) {
 
 func TestAllRegistersOfEachOperation(t *testing.T) {
 	for op := 1; op <= 43; op++ {
-		_, d := bounds(shapeOf(op)[0])
-		_, a := bounds(shapeOf(op)[1])
-		_, b := bounds(shapeOf(op)[2])
-		low, high := bounds(shapeOf(op)[3])
+		_, d := chart.Bounds(chart.Shape(op)[0])
+		_, a := chart.Bounds(chart.Shape(op)[1])
+		_, b := chart.Bounds(chart.Shape(op)[2])
+		low, high := chart.Bounds(chart.Shape(op)[3])
 		for n := range (d + 1) * (a + 1) * (b + 1) {
 			fields := [4]int{n % (d + 1), n / (d + 1) % (a + 1), n / (d + 1) / (a + 1), low}
 			checkIns(t, op, fields)
@@ -539,22 +446,12 @@ func TestWhatIsDecodedIsEncodedToItsWord(t *testing.T) {
 
 func TestNoTwoInstructionsHaveOneWord(t *testing.T) {
 	seen := map[uint32]api.Ins{}
-	for op := 1; op <= 43; op++ {
-		shape := shapeOf(op)
-		for _, d := range within(shape[0]) {
-			for _, a := range within(shape[1]) {
-				for _, b := range within(shape[2]) {
-					for _, n := range within(shape[3]) {
-						i := made(op, [4]int{d, a, b, n})
-						w, e := code.Encode(i)
-						if other, ok := seen[w]; e != api.OK || ok && other != i {
-							t.Fatalf("Encode(%+v) = %#x, %v, as of %+v", i, w, e, other)
-						}
-						seen[w] = i
-					}
-				}
-			}
+	for i := range chart.Some {
+		w, e := code.Encode(i)
+		if other, ok := seen[w]; ok || e != api.OK {
+			t.Fatalf("Encode(%+v) = %#x, %v, as of %+v", i, w, e, other)
 		}
+		seen[w] = i
 	}
 }
 
