@@ -66,10 +66,7 @@ func lineOf(op int, fields [4]int) string { return strings.Join(wordsOf(op, fiel
 
 // beyond are numbers with words that a letter does not allow.
 func beyond(letter byte) []int {
-	return slices.DeleteFunc(chart.Beyond(letter), func(x int) bool {
-		number := letter == 's' || letter == 'u'
-		return x < -999999999 || x > 999999999 || !number && x < 0 // A register has no number below 0.
-	})
+	return slices.DeleteFunc(chart.Beyond(letter), func(x int) bool { return x < -999999999 || x > 999999999 })
 }
 
 // checkWords holds that words are the ones wanted.
@@ -543,8 +540,8 @@ func TestParseOfAnotherCountOfWords(t *testing.T) {
 // noRegisters are words that are no register's.
 func noRegisters() []string {
 	return []string{
-		"r", "R", "R1", "R0", "r01", "r00", "r-1", "r-0", "r-31", "r+1", "r-", "r+", "rr", "rr1", "1r", "r1r", "r1,", ",r1", "r1:", "r1.", "r1.0", "r1e1", "r0x1", "r1_0", "r_1", "ra", "r1a", "x1", "d1", "a1", "$1", "%r1", "[r1]", "(r1)",
-		"0", "1", "-1", "31", "01", "-", "@a", "r\t1", "\tr1", "r1\t", "r1\n", "r\x001", "r1\xa0", "r1\u00a0", "r１", "ｒ1", "r١", "r1000000000", "r1234567890", "r4294967296", "r18446744073709551616", "r00000000000", "r" + strings.Repeat("1", 1000),
+		"r", "R", "R1", "R0", "R-1", "r01", "r00", "r-0", "r-00", "r-01", "r--1", "r-+1", "r+-1", "-r1", "-r-1", "r-r1", "r-1r", "r-a", "r-1-", "r+1", "r-", "r+", "rr", "rr1", "1r", "r1r", "r1,", ",r1", "r1:", "r1.", "r1.0", "r1e1", "r0x1", "r1_0", "r_1", "ra", "r1a", "x1", "d1", "a1", "$1", "%r1", "[r1]", "(r1)",
+		"0", "1", "-1", "31", "01", "-", "@a", "r\t1", "\tr1", "r1\t", "r1\n", "r\x001", "r1\xa0", "r1\u00a0", "r１", "ｒ1", "r١", "r1000000000", "r-1000000000", "r1234567890", "r-1234567890", "r4294967296", "r-4294967295", "r-18446744073709551615", "r18446744073709551616", "r00000000000", "r" + strings.Repeat("1", 1000),
 	}
 }
 
@@ -589,6 +586,33 @@ func TestParseBeyondBounds(t *testing.T) {
 	}
 }
 
+func TestParseOfRegistersBelowNought(t *testing.T) {
+	for s, e := range map[string]api.Errno{
+		"lui r-1 2": api.ErrRange, "max r-1 r1 r0": api.ErrRange, "addi r1 r-1 6": api.ErrRange, "mask r1 r-1": api.ErrRange, "and r1 r2 r-7": api.ErrRange, "jr r-999999999": api.ErrRange, "lw r-31 r-32 40": api.ErrRange, "xor r-1 r-1 r-1": api.ErrRange,
+		"lui r-0 2": api.ErrForm, "lui r-01 2": api.ErrForm, "lui r- 2": api.ErrForm, "lui -1 2": api.ErrForm, "lui r--1 2": api.ErrForm, "lui r-1234567890 2": api.ErrForm,
+	} {
+		checkRefused(t, s, e)
+	}
+	for op := 1; op <= 43; op++ {
+		for k, letter := range []byte(has(op)) {
+			for _, n := range []int{-1, -2, -7, -31, -32, -100, -65536, -999999999} {
+				if letter == 's' || letter == 'u' {
+					continue
+				}
+				for _, fields := range usual(op) {
+					words := wordsOf(op, fields)
+					words[k+1] = operand(letter, n)
+					s := strings.Join(words, " ")
+					checkRefused(t, s, api.ErrRange)
+					checkRefused(t, s+" r1", api.ErrForm)
+					checkRefused(t, s+" x", api.ErrForm)
+					checkRefused(t, strings.Join(words[:len(words)-1], " "), api.ErrForm)
+				}
+			}
+		}
+	}
+}
+
 func TestParseOfTwoErrors(t *testing.T) {
 	for op := 1; op <= 43; op++ {
 		shape := has(op)
@@ -612,6 +636,7 @@ func TestParseOfTwoErrors(t *testing.T) {
 		}
 	}
 	for s, e := range map[string]api.Errno{
+		"add r-1 r1 x": api.ErrForm, "add r-1 r-1 3": api.ErrForm, "lui r-1": api.ErrForm, "lui r-1 2 3": api.ErrForm, "lui r-1 -0": api.ErrForm, "lui r-1 -1": api.ErrRange, "jr r-1 r1": api.ErrForm, "halt r-1": api.ErrForm,
 		"add r32 r2": api.ErrForm, "add r32 r2 3": api.ErrForm, "lui r32 -1": api.ErrRange, "lui r32 -0": api.ErrForm, "lui r 65536": api.ErrForm, "jump 65536 r1": api.ErrForm, "jr r32 r1": api.ErrForm, "halt r32": api.ErrForm, "addi r1 r99 -32769": api.ErrRange,
 	} {
 		checkRefused(t, s, e)
@@ -636,8 +661,7 @@ func plainOperand(letter byte, word string) (int, bool) {
 	if len(word) == 0 || word[0] != 'r' {
 		return 0, false
 	}
-	n, ok := plainNumber(word[1:])
-	return n, ok && word[1] != '-'
+	return plainNumber(word[1:])
 }
 
 // plainParse is a line's instruction as the chapter tells it.
@@ -672,7 +696,7 @@ func plainParse(s string) (api.Ins, api.Errno) {
 
 func TestParseOfAllShortLines(t *testing.T) {
 	told := map[api.Errno]int{}
-	for _, operands := range texts([]string{" r1", " r31", " r32", " 5", " -1", " 65536", " x", " halt", " "}, 4) {
+	for _, operands := range texts([]string{" r1", " r31", " r32", " r-1", " 5", " -1", " 65536", " x", " halt", " "}, 4) {
 		for _, name := range []string{"add", "clz", "addi", "lw", "lui", "jump", "jal", "jr", "halt", "", "r1"} {
 			s := name + operands
 			i, e := plainParse(s)
