@@ -1,4 +1,4 @@
-// Package chart is for tests: what the chapters say of instructions, written apart from the layers that are held against it.
+// Package chart is for tests: what the chapters say of instructions and of names, written apart from the layers that are held against it.
 package chart
 
 import (

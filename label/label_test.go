@@ -8,6 +8,7 @@ import (
 	"testing"
 
 	"astrolabe/api"
+	"astrolabe/chart"
 	"astrolabe/label"
 )
 
@@ -44,7 +45,7 @@ func checkResolve(t *testing.T, table *label.Table, fixes []api.Fix, name string
 func checkNone(t *testing.T, table *label.Table) {
 	t.Helper()
 	for range 2 {
-		for _, name := range append([]string{"a", "b_1", strings.Repeat("z", longest)}, noNames...) {
+		for _, name := range append([]string{"a", "b_1", strings.Repeat("z", chart.Longest)}, noNames...) {
 			if e := table.Define(name, 7); e != api.ErrNil {
 				t.Fatalf("Define(%q) = %v, want %v", name, e, api.ErrNil)
 			}
@@ -60,28 +61,6 @@ func checkNone(t *testing.T, table *label.Table) {
 		}
 		checkResolve(t, table, nil, "", api.ErrNil)
 	}
-}
-
-// names are n of them without a pattern, of all lengths, each once.
-func names(n int) []string {
-	var l []string
-	x := uint32(7)
-	next := func(below int) int {
-		x = x*1103515245 + 12345
-		return int(x>>8) % below
-	}
-	had := map[string]bool{}
-	for len(l) < n {
-		name := letters[next(26):][:1]
-		for range next(longest) {
-			name += (letters + digits + "_")[next(37):][:1]
-		}
-		if !had[name] {
-			had[name] = true
-			l = append(l, name)
-		}
-	}
-	return l
 }
 
 func TestExample(t *testing.T) {
@@ -106,7 +85,7 @@ func TestIsOfEachByteAndOfEachTwo(t *testing.T) {
 		}
 		for b := range 256 {
 			s := string([]byte{byte(a), byte(b)})
-			if got := label.Is(s); got != plainIs(s) {
+			if got := label.Is(s); got != chart.IsName(s) {
 				t.Errorf("Is(%q) = %t", s, got)
 			}
 			if label.Is(s) {
@@ -120,12 +99,12 @@ func TestIsOfEachByteAndOfEachTwo(t *testing.T) {
 }
 
 func TestIsOfEachByteAtEachPlace(t *testing.T) {
-	for n := 1; n <= longest+2; n++ {
+	for n := 1; n <= chart.Longest+2; n++ {
 		for at := range n {
 			for c := range 256 {
 				s := []byte(strings.Repeat("q", n))
 				s[at] = byte(c)
-				want := n <= longest && (c >= 97 && c <= 122 || at > 0 && (c >= 48 && c <= 57 || c == 95))
+				want := n <= chart.Longest && (c >= 97 && c <= 122 || at > 0 && (c >= 48 && c <= 57 || c == 95))
 				if got := label.Is(string(s)); got != want {
 					t.Fatalf("Is(%q) = %t, want %t", s, got, want)
 				}
@@ -136,15 +115,15 @@ func TestIsOfEachByteAtEachPlace(t *testing.T) {
 
 func TestIsOfEachLength(t *testing.T) {
 	for _, text := range []string{"a", "z", "m_0", "a9", "z__"} {
-		long := strings.Repeat(text, 1<<17+longest+1)
+		long := strings.Repeat(text, 1<<17+chart.Longest+1)
 		for n := range 600 {
-			if got := label.Is(long[:n]); got != (n >= 1 && n <= longest) {
+			if got := label.Is(long[:n]); got != (n >= 1 && n <= chart.Longest) {
 				t.Errorf("Is of %d bytes = %t", n, got)
 			}
 		}
 		// Such as would be a name's, if they were cut to fewer bits.
 		for bits := 8; bits <= 17; bits++ {
-			for _, n := range []int{0, 1, 2, longest, longest + 1} {
+			for _, n := range []int{0, 1, 2, chart.Longest, chart.Longest + 1} {
 				if label.Is(long[:1<<bits+n]) {
 					t.Errorf("Is of %d bytes", 1<<bits+n)
 				}
@@ -241,7 +220,7 @@ func TestDefineTwice(t *testing.T) {
 
 func TestATableWhoseNamesWereRefusedTwiceTakesOthers(t *testing.T) {
 	x := made(t)
-	for k, name := range names(60) {
+	for k, name := range chart.Names(60) {
 		x.define(t, name, k)
 		x.define(t, name, k)
 		x.define(t, name, k+1)
@@ -355,7 +334,7 @@ func TestNamesRiseByteByByte(t *testing.T) {
 func TestNamesWithoutAPattern(t *testing.T) {
 	for _, n := range []int{1, 2, 3, 8, 9, 50, 300} {
 		x := made(t)
-		for k, name := range names(n) {
+		for k, name := range chart.Names(n) {
 			x.define(t, name, k*k-50)
 		}
 		x.check(t)
@@ -364,8 +343,8 @@ func TestNamesWithoutAPattern(t *testing.T) {
 
 func TestNamesOfAllLettersAndDigits(t *testing.T) {
 	x := made(t)
-	for _, c := range []byte(letters) {
-		for _, d := range []byte("_" + digits + letters) {
+	for _, c := range []byte(chart.Letters) {
+		for _, d := range []byte("_" + chart.Digits + chart.Letters) {
 			x.define(t, string([]byte{c, d}), int(c)*256+int(d))
 		}
 	}
@@ -423,7 +402,7 @@ func TestResolveWithoutEachNameAndEachTwo(t *testing.T) {
 func TestResolveOfNoUses(t *testing.T) {
 	x := made(t)
 	checkResolve(t, x.table, nil, "", api.OK)
-	for k, name := range names(20) {
+	for k, name := range chart.Names(20) {
 		x.define(t, name, k+1)
 		checkResolve(t, x.table, nil, "", api.OK)
 	}
@@ -432,7 +411,7 @@ func TestResolveOfNoUses(t *testing.T) {
 }
 
 func TestResolveTellsTheWholeName(t *testing.T) {
-	for n := 1; n <= longest; n++ {
+	for n := 1; n <= chart.Longest; n++ {
 		x := made(t)
 		name := ("l" + strings.Repeat("_0z", 8))[:n]
 		x.use(t, name, 1)
@@ -537,7 +516,7 @@ func TestAllRowsOfAFewTellings(t *testing.T) {
 }
 
 func TestALongRowOfTellings(t *testing.T) {
-	some, x := names(40), made(t)
+	some, x := chart.Names(40), made(t)
 	chance := uint32(3)
 	next := func(below int) int {
 		chance = chance*1103515245 + 12345
@@ -567,7 +546,7 @@ func TestALongRowOfTellings(t *testing.T) {
 
 func TestWhatIsAskedChangesNothing(t *testing.T) {
 	x := made(t)
-	for k, name := range names(30) {
+	for k, name := range chart.Names(30) {
 		x.use(t, name, k)
 		if k%3 > 0 {
 			x.define(t, name, -k)
@@ -582,7 +561,7 @@ func TestWhatIsAskedChangesNothing(t *testing.T) {
 
 func TestAnswersAreNewMemory(t *testing.T) {
 	x := made(t)
-	for k, name := range names(9) {
+	for k, name := range chart.Names(9) {
 		x.use(t, name, k)
 		x.define(t, name, k*2)
 	}

@@ -2,29 +2,22 @@ package label_test
 
 import (
 	"math"
-	"strings"
 	"testing"
 
 	"astrolabe/api"
+	"astrolabe/chart"
 	"astrolabe/label"
 )
 
 // The reckoning of the tests is the chapter's: all that was told of names, in order, gone through anew for each answer, without maps and without sorting.
-
-const (
-	letters = "abcdefghijklmnopqrstuvwxyz"
-	digits  = "0123456789"
-	longest = 24 // how many bytes a name has at most
-)
 
 // ends are places at which sums and comparisons turn, some of them alike when cut to fewer bits; the first one is what is answered where there is no place.
 var ends = []int{0, 1, -1, 2, -2, 3, 7, 255, 256, 2047, 16383, 16384, 65535, 65536, 65537, -65536,
 	1<<31 - 1, 1 << 31, -1 << 31, -1<<31 - 1, 1<<32 - 1, 1 << 32, 1<<32 + 1, -1 << 32,
 	math.MaxInt - 1, math.MaxInt, math.MinInt, math.MinInt + 1}
 
-// noNames are texts that are none, for each of the reasons.
-var noNames = []string{"", " ", "A", "Z", "_", "_a", "0", "9", "9a", "aB", "a-b", "a b", " a", "a ", "a.", "a:", "@a", "a\x00", "\x00", "a\n", "\na", "`", "{", "a`", "a{", "a/", "a[", "a@", "a^", "a\x7f", "a\x80", "a\xff", "\xff",
-	"é", "aé", "ａ", "а", "ı", "a０", "a٣", "a＿", strings.Repeat("a", longest+1), strings.Repeat("_", longest), strings.Repeat("a", 256), strings.Repeat("a", 256+longest), "abcdefghijklmnopqrstuvw\xc3", "abcdefghijklmnopqrstuvwé"}
+// noNames are texts that are none.
+var noNames = chart.NoNames()
 
 // telling is what a table was told, and took: that a name has a place, or is used at one.
 type telling struct {
@@ -35,23 +28,6 @@ type telling struct {
 
 // plain is all that a table took, in order.
 type plain []telling
-
-// plainIs: is it a name?
-func plainIs(s string) bool {
-	if s == "" || len(s) > longest {
-		return false
-	}
-	for k, c := range []byte(s) {
-		may := letters + digits + "_"
-		if k == 0 {
-			may = letters
-		}
-		if !strings.Contains(may, string(rune(c))) {
-			return false
-		}
-	}
-	return true
-}
 
 // ahead: does a stand ahead of b, byte by byte?
 func ahead(a, b string) bool {
@@ -133,7 +109,7 @@ func (p *pair) tell(t *testing.T, x telling) {
 	if _, twice := p.took.place(x.name); twice && !x.used {
 		want = api.ErrTwice
 	}
-	if !plainIs(x.name) {
+	if !chart.IsName(x.name) {
 		want = api.ErrName
 	}
 	if e := call(x.name, x.place); e != want {
