@@ -8,43 +8,7 @@ import (
 	"astrolabe/code"
 )
 
-// The reckoning of the tests is the chapter's, by numbers alone: words are sums of products, and bits are quotients and rests.
-
-// fault is the error of a field that is not within its letter's bounds.
-func fault(letter byte) api.Errno {
-	if letter == '-' {
-		return api.ErrForm
-	}
-	return api.ErrRange
-}
-
-// weights are what D, A, B and N weigh in a word; an operation weighs 2^26.
-var weights = [4]int{2097152, 65536, 2048, 1}
-
-// wordOf is the word of an instruction that may be.
-func wordOf(op int, fields [4]int) uint32 {
-	sum := op * 67108864
-	for k, x := range fields {
-		if x < 0 {
-			x += 65536
-		}
-		sum += x * weights[k]
-	}
-	return uint32(sum)
-}
-
-// errorOf is the error of an instruction, field by field.
-func errorOf(op int, fields [4]int) api.Errno {
-	if op < 1 || op > 43 {
-		return api.ErrArg
-	}
-	for k, x := range fields {
-		if low, high := chart.Bounds(chart.Shape(op)[k]); x < low || x > high {
-			return fault(chart.Shape(op)[k])
-		}
-	}
-	return api.OK
-}
+// The reckoning of the tests is the chapter's, by numbers alone: words are sums of products, as package chart tells them, and bits are quotients and rests.
 
 // power is 2^n.
 func power(n int) uint32 {
@@ -82,13 +46,13 @@ func free(op int) []int {
 // checkIns holds what all three calls say of an instruction, there and back.
 func checkIns(t *testing.T, op int, fields [4]int) {
 	t.Helper()
-	i, e := chart.Ins(op, fields), errorOf(op, fields)
+	i, e := chart.Ins(op, fields), chart.Error(op, fields)
 	if got := code.Check(i); got != e {
 		t.Fatalf("Check(%+v) = %v, want %v", i, got, e)
 	}
 	w := uint32(0)
 	if e == api.OK {
-		w = wordOf(op, fields)
+		w = chart.Word(op, fields)
 	}
 	if got, f := code.Encode(i); got != w || f != e {
 		t.Fatalf("Encode(%+v) = %#x, %v, want %#x, %v", i, got, f, w, e)
@@ -199,8 +163,8 @@ func TestEachFieldsErrorIsItsLetters(t *testing.T) {
 			for _, x := range chart.Beyond(letter) {
 				fields := chart.Greatest(op)
 				fields[k] = x
-				if e := code.Check(chart.Ins(op, fields)); e != fault(letter) {
-					t.Errorf("Check of operation %d with field %d of %d: %v, want %v", op, k, x, e, fault(letter))
+				if e := code.Check(chart.Ins(op, fields)); e != chart.Fault(letter) {
+					t.Errorf("Check of operation %d with field %d of %d: %v, want %v", op, k, x, e, chart.Fault(letter))
 				}
 			}
 		}
@@ -213,13 +177,13 @@ func TestTwoWrongFieldsTellTheFirstOnesError(t *testing.T) {
 		shape := chart.Shape(op)
 		for k := range 4 {
 			for l := k + 1; l < 4; l++ {
-				told[[2]api.Errno{fault(shape[k]), fault(shape[l])}] = true
+				told[[2]api.Errno{chart.Fault(shape[k]), chart.Fault(shape[l])}] = true
 				for _, x := range chart.Beyond(shape[k]) {
 					for _, y := range chart.Beyond(shape[l]) {
 						fields := [4]int{}
 						fields[k], fields[l] = x, y
-						if e := code.Check(chart.Ins(op, fields)); e != fault(shape[k]) {
-							t.Fatalf("Check of operation %d with %v: %v, want %v", op, fields, e, fault(shape[k]))
+						if e := code.Check(chart.Ins(op, fields)); e != chart.Fault(shape[k]) {
+							t.Fatalf("Check of operation %d with %v: %v, want %v", op, fields, e, chart.Fault(shape[k]))
 						}
 						checkIns(t, op, fields)
 					}
@@ -329,10 +293,10 @@ func TestDecodeOfBitsThatAreToldToBeNought(t *testing.T) {
 	for op := 1; op <= 43; op++ {
 		for _, fields := range [][4]int{{}, chart.Least(op), chart.Greatest(op)} {
 			for _, n := range free(op) {
-				checkUndecoded(t, wordOf(op, fields)+power(n), api.ErrForm)
+				checkUndecoded(t, chart.Word(op, fields)+power(n), api.ErrForm)
 				for _, m := range free(op) {
 					if m != n {
-						checkUndecoded(t, wordOf(op, fields)+power(n)+power(m), api.ErrForm)
+						checkUndecoded(t, chart.Word(op, fields)+power(n)+power(m), api.ErrForm)
 					}
 				}
 			}
@@ -350,7 +314,7 @@ func TestDecodeOfAllBitsThatAreToldToBeNought(t *testing.T) {
 			continue
 		}
 		for _, fields := range [][4]int{{}, chart.Least(op), chart.Greatest(op)} {
-			checkUndecoded(t, wordOf(op, fields)+all, api.ErrForm)
+			checkUndecoded(t, chart.Word(op, fields)+all, api.ErrForm)
 		}
 	}
 }
