@@ -36,6 +36,31 @@ func Name(op int) string { return forms[op].name }
 // Shape: an operation's.
 func Shape(op int) string { return forms[op].shape }
 
+// Op: the operation of a name; 0, if there is none.
+func Op(name string) int {
+	for op := 1; op < len(forms); op++ {
+		if forms[op].name == name {
+			return op
+		}
+	}
+	return 0
+}
+
+// Named: the instruction of an operation's name and of what its shape has, in order. A name that is none is a fault of the test: then it panics.
+func Named(name string, has ...int) api.Ins {
+	op := Op(name)
+	if op == 0 {
+		panic("no operation is named " + name)
+	}
+	var fields [4]int
+	for k, letter := range []byte(Shape(op)) {
+		if letter != '-' {
+			fields[k], has = has[0], has[1:]
+		}
+	}
+	return Ins(op, fields)
+}
+
 // Bounds: the least and the greatest that a letter allows.
 func Bounds(letter byte) (int, int) {
 	switch letter {

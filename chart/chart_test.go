@@ -20,6 +20,45 @@ func TestOperationsStandByTheirNumbers(t *testing.T) {
 	}
 }
 
+func TestOpIsThatOfItsName(t *testing.T) {
+	for op := 1; op <= 43; op++ {
+		if got := chart.Op(chart.Name(op)); got != op {
+			t.Errorf("operation %d is found as %d", op, got)
+		}
+	}
+	for _, name := range []string{"", " ", "Add", "ad", "adds "} {
+		if got := chart.Op(name); got != 0 {
+			t.Errorf("%q is operation %d", name, got)
+		}
+	}
+}
+
+func TestNamedHasWhatItsShapeHas(t *testing.T) {
+	for _, x := range []struct{ got, want api.Ins }{
+		{chart.Named("add", 1, 2, 3), api.Ins{Op: api.OpAdd, D: 1, A: 2, B: 3}},
+		{chart.Named("clz", 1, 2), api.Ins{Op: api.OpClz, D: 1, A: 2}},
+		{chart.Named("addi", 1, 2, -3), api.Ins{Op: api.OpAddi, D: 1, A: 2, N: -3}},
+		{chart.Named("lui", 1, 3), api.Ins{Op: api.OpLui, D: 1, N: 3}},
+		{chart.Named("jump", 3), api.Ins{Op: api.OpJump, N: 3}},
+		{chart.Named("jr", 2), api.Ins{Op: api.OpJr, A: 2}},
+		{chart.Named("halt"), api.Ins{Op: api.OpHalt}},
+	} {
+		if x.got != x.want {
+			t.Errorf("%+v, want %+v", x.got, x.want)
+		}
+	}
+	if !panics(func() { chart.Named("load", 1) }) {
+		t.Error("a name that is none has an instruction")
+	}
+}
+
+// panics: does it?
+func panics(do func()) (did bool) {
+	defer func() { did = recover() != nil }()
+	do()
+	return
+}
+
 func TestNumbersOfLetters(t *testing.T) {
 	for _, letter := range []byte("dabsu-") {
 		low, high := chart.Bounds(letter)

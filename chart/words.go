@@ -38,3 +38,26 @@ func Fault(letter byte) api.Errno {
 	}
 	return api.ErrRange
 }
+
+// Strays: words that are no instruction: of no operation, or with a bit that is told to be 0.
+func Strays() []uint32 {
+	return []uint32{0, 1, 1<<26 - 1, 44 << 26, 63 << 26, 1<<32 - 1, 39<<26 + 1<<21, 39<<26 + 1<<16 + 2, 40<<26 + 1<<16, 43<<26 + 1, 42<<26 + 1<<25, 41<<26 + 1, 41<<26 + 1<<21, 1<<26 + 1, 24<<26 + 1<<11, 33<<26 + 1<<16}
+}
+
+// Words: those of instructions; one without an operation has one of Strays, each in turn. One that may not be is a fault of the test: then it panics.
+func Words(l []api.Ins) []uint32 {
+	strays := Strays()
+	words := make([]uint32, len(l))
+	for k, i := range l {
+		fields := [4]int{i.D, i.A, i.B, i.N}
+		switch {
+		case i.Op == 0:
+			words[k] = strays[k%len(strays)]
+		case Error(i.Op, fields) != api.OK:
+			panic(Error(i.Op, fields))
+		default:
+			words[k] = Word(i.Op, fields)
+		}
+	}
+	return words
+}

@@ -1,10 +1,12 @@
 package chart_test
 
 import (
+	"slices"
 	"testing"
 
 	"astrolabe/api"
 	"astrolabe/chart"
+	"astrolabe/code"
 )
 
 func TestWordByExactAnswers(t *testing.T) {
@@ -58,5 +60,35 @@ func TestErrorByExactAnswers(t *testing.T) {
 	}
 	if chart.Fault('-') != api.ErrForm || chart.Fault('d') != api.ErrRange || chart.Fault('u') != api.ErrRange {
 		t.Error("Fault")
+	}
+}
+
+func TestStraysAreNoInstruction(t *testing.T) {
+	told := map[api.Errno]int{}
+	for _, w := range chart.Strays() {
+		i, e := code.Decode(w)
+		if e == api.OK {
+			t.Errorf("%#x is %+v", w, i)
+		}
+		told[e]++
+	}
+	if told[api.ErrArg] < 3 || told[api.ErrForm] < 3 {
+		t.Errorf("strays are such as %v", told)
+	}
+}
+
+func TestWordsOfInstructions(t *testing.T) {
+	l := []api.Ins{{Op: api.OpHalt}, {}, {Op: api.OpAddi, D: 1, A: 2, N: -1}, {}}
+	s := chart.Strays()
+	if got, want := chart.Words(l), []uint32{0b101011 << 26, s[1], 0b011111_00001_00010_1111111111111111, s[3]}; !slices.Equal(got, want) {
+		t.Errorf("Words = %#x, want %#x", got, want)
+	}
+	if got := chart.Words(make([]api.Ins, 3*len(s))); !slices.Equal(got, slices.Repeat(s, 3)) {
+		t.Errorf("Words of none are %#x", got)
+	}
+	for _, i := range []api.Ins{{Op: 44}, {Op: -1}, {Op: api.OpAdd, D: 32}, {Op: api.OpHalt, N: 1}, {D: 1}} {
+		if did := panics(func() { chart.Words([]api.Ins{i}) }); did != (i.Op != 0) {
+			t.Errorf("Words of %+v: %t", i, did)
+		}
 	}
 }

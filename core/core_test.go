@@ -7,7 +7,6 @@ import (
 
 	"astrolabe/api"
 	"astrolabe/chart"
-	"astrolabe/code"
 	"astrolabe/core"
 )
 
@@ -19,36 +18,7 @@ var ends = []int{-1, -2, -32, -1024, math.MinInt, math.MinInt + 1, math.MaxInt, 
 	1 << 32, 1<<32 + 1, 1<<32 + 5, -1 << 32, -1<<32 + 1, 1 << 62, 1<<62 + 1, 4096, 65536, 65537, 1 << 16 * 3, 2048, 2049}
 
 // ins is an instruction of an operation's name and of what its shape has, in order.
-func ins(name string, fields ...int) api.Ins {
-	op := 1
-	for chart.Name(op) != name {
-		op++
-	}
-	var all [4]int
-	for k, letter := range []byte(chart.Shape(op)) {
-		if letter != '-' {
-			all[k], fields = fields[0], fields[1:]
-		}
-	}
-	return chart.Ins(op, all)
-}
-
-// words are those of instructions; 0, which is no instruction's, stands for one that is none.
-func words(t *testing.T, l []api.Ins) []uint32 {
-	t.Helper()
-	out := make([]uint32, len(l))
-	for k, i := range l {
-		if i.Op == noOperation {
-			continue
-		}
-		w, e := code.Encode(i)
-		if e != api.OK {
-			t.Fatalf("Encode(%+v): %v", i, e)
-		}
-		out[k] = w
-	}
-	return out
-}
+func ins(name string, fields ...int) api.Ins { return chart.Named(name, fields...) }
 
 // pair is a core, and the plain one that it is to be like.
 type pair struct {
@@ -59,7 +29,7 @@ type pair struct {
 // made is a core of instructions and words of memory.
 func made(t *testing.T, data []int32, l ...api.Ins) pair {
 	t.Helper()
-	c, e := core.New(words(t, l), data)
+	c, e := core.New(chart.Words(l), data)
 	if c == nil || e != api.OK {
 		t.Fatalf("New of %d words of code and %d of memory: %v, %v", len(l), len(data), c, e)
 	}
@@ -298,7 +268,7 @@ func TestNewOfNothing(t *testing.T) {
 
 func TestNewKeepsNoListThatItIsMadeOf(t *testing.T) {
 	l := []api.Ins{ins("lw", 1, 0, 2), ins("sw", 1, 0, 0), ins("addi", 2, 1, 1), ins("halt"), ins("nop")}
-	words, data := words(t, l), []int32{4, 5, 6, 7}
+	words, data := chart.Words(l), []int32{4, 5, 6, 7}
 	c, _ := core.New(words[:4], data[:3])
 	x := pair{c, &plain{code: l[:4], ram: []int32{4, 5, 6}}}
 	clear(words)
@@ -312,7 +282,7 @@ func TestNewKeepsNoListThatItIsMadeOf(t *testing.T) {
 
 func TestNewChangesNothingThatItIsHanded(t *testing.T) {
 	l := []api.Ins{ins("addi", 1, 0, 8), ins("sw", 1, 0, 0), ins("halt")}
-	words, data := words(t, l), []int32{1, 2}
+	words, data := chart.Words(l), []int32{1, 2}
 	for range 2 {
 		c, _ := core.New(words, data)
 		x := pair{c, &plain{code: l, ram: slices.Clone(data)}}

@@ -408,7 +408,7 @@ func TestTrapForm(t *testing.T) {
 		}
 	}
 	for _, w := range none {
-		l := append(words(t, []api.Ins{ins("lw", 1, 0, 1), ins("sw", 1, 0, 0)}), w)
+		l := append(chart.Words([]api.Ins{ins("lw", 1, 0, 1), ins("sw", 1, 0, 0)}), w)
 		c, e := core.New(l, []int32{5, 6})
 		if e != api.OK {
 			t.Fatalf("New of %#x: %v", w, e)
@@ -469,66 +469,58 @@ func TestATrapThatIsGoneBehindBegin(t *testing.T) {
 
 // P16.4: on and on
 
-// chance tells numbers without a pattern.
-type chance uint32
-
-func (s *chance) below(n int) int {
-	*s = *s*1664525 + 1013904223
-	return int(*s>>8) % n
-}
-
 // anyIns is some instruction: of few registers, so that they meet, with places within the code and addresses within memory, mostly.
-func anyIns(s *chance, places, length int) api.Ins {
-	op := 1 + s.below(43)
-	if s.below(3) == 0 {
-		op = 31 + s.below(10)
+func anyIns(s *chart.Chance, places, length int) api.Ins {
+	op := 1 + s.Below(43)
+	if s.Below(3) == 0 {
+		op = 31 + s.Below(10)
 	}
-	if name := chart.Name(op); name == "halt" && s.below(4) > 0 {
+	if name := chart.Name(op); name == "halt" && s.Below(4) > 0 {
 		op = 31
 	}
 	i := api.Ins{Op: op}
 	shape := chart.Shape(op)
 	if shape[0] == 'd' {
-		i.D = s.below(9)
+		i.D = s.Below(9)
 	}
 	if shape[1] == 'a' {
-		i.A = s.below(9)
+		i.A = s.Below(9)
 	}
 	if shape[2] == 'b' {
-		i.B = s.below(9)
+		i.B = s.Below(9)
 	}
 	switch {
 	case shape[3] == 's':
-		i.N = s.below(9) - 4
+		i.N = s.Below(9) - 4
 	case shape[3] == 'u' && (op == api.OpLw || op == api.OpSw):
-		i.A, i.N = i.A*s.below(2), s.below(length+1)
+		i.A, i.N = i.A*s.Below(2), s.Below(length+1)
 	case shape[3] == 'u':
-		i.N = s.below(places + 1)
+		i.N = s.Below(places + 1)
 	}
 	return i
 }
 
 // anyProgram is some program: memory has edges and small numbers, registers are loaded first, and some word may be no instruction.
-func anyProgram(s *chance) ([]api.Ins, []int32) {
-	length := 12 + s.below(20)
-	if s.below(4) == 0 {
-		length = 1020 + s.below(40)
+func anyProgram(s *chart.Chance) ([]api.Ins, []int32) {
+	length := 12 + s.Below(20)
+	if s.Below(4) == 0 {
+		length = 1020 + s.Below(40)
 	}
 	data := make([]int32, length)
 	for addr := range data {
-		data[addr] = int32(s.below(30))
-		if s.below(3) == 0 {
-			data[addr] = edges[s.below(len(edges))]
+		data[addr] = int32(s.Below(30))
+		if s.Below(3) == 0 {
+			data[addr] = edges[s.Below(len(edges))]
 		}
 	}
-	places := 12 + s.below(30)
+	places := 12 + s.Below(30)
 	var l []api.Ins
 	for r := 1; r < 9; r++ {
-		l = append(l, ins("lw", r, 0, s.below(length)))
+		l = append(l, ins("lw", r, 0, s.Below(length)))
 	}
 	for len(l) < places {
 		i := anyIns(s, places, length)
-		if s.below(60) == 0 {
+		if s.Below(60) == 0 {
 			i = api.Ins{}
 		}
 		l = append(l, i)
@@ -537,7 +529,7 @@ func anyProgram(s *chance) ([]api.Ins, []int32) {
 }
 
 func TestManyProgramsStepByStep(t *testing.T) {
-	s, times, done := chance(1), map[int]int{}, map[int]int{}
+	s, times, done := chart.Chance(1), map[int]int{}, map[int]int{}
 	for range 3000 {
 		l, data := anyProgram(&s)
 		x := made(t, data, l...)
@@ -564,7 +556,7 @@ func TestManyProgramsStepByStep(t *testing.T) {
 }
 
 func TestARunOfSomeStepsAndOneOfOthers(t *testing.T) {
-	s := chance(2)
+	s := chart.Chance(2)
 	for range 300 {
 		l, data := anyProgram(&s)
 		whole := made(t, data, l...)
@@ -603,12 +595,12 @@ func TestRunsGoOnBehindTheMostFuel(t *testing.T) {
 }
 
 func TestWhatARunCostsIsWhatItsMarksCost(t *testing.T) {
-	s := chance(3)
+	s := chart.Chance(3)
 	for range 500 {
 		l, data := anyProgram(&s)
 		x := made(t, data, l...)
 		for range 3 {
-			x.run(t, 1+s.below(20))
+			x.run(t, 1+s.Below(20))
 			sum := 0
 			for _, m := range x.c.Marks() {
 				sum += m.Cost
@@ -616,7 +608,7 @@ func TestWhatARunCostsIsWhatItsMarksCost(t *testing.T) {
 			if got := x.c.Cycles(); got != sum {
 				t.Fatalf("Cycles() = %d, marks cost %d", got, sum)
 			}
-			if s.below(5) == 0 {
+			if s.Below(5) == 0 {
 				x.begin(t)
 			}
 		}
@@ -624,7 +616,7 @@ func TestWhatARunCostsIsWhatItsMarksCost(t *testing.T) {
 }
 
 func TestMemoryChangesJustWhereAMarkOfSwStands(t *testing.T) {
-	s := chance(4)
+	s := chart.Chance(4)
 	stored := 0
 	for range 500 {
 		l, data := anyProgram(&s)

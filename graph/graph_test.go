@@ -29,7 +29,7 @@ func nops(n int) []api.Ins { return slices.Repeat([]api.Ins{nop()}, n) }
 // check holds all calls of code, at each place, and each two.
 func check(t *testing.T, l plain) {
 	t.Helper()
-	w, x := l.words(t), l.tell()
+	w, x := l.words(), l.tell()
 	checkWhole(t, l, w, x)
 	for p := range l {
 		if got := graph.Next(w, p); !slices.Equal(got, x.onwards[p]) {
@@ -81,7 +81,7 @@ func checkNoPlace(t *testing.T, l plain, w []uint32, p int) {
 
 func TestExample(t *testing.T) {
 	l := plain{jump(1), beq(0)}
-	w := l.words(t)
+	w := l.words()
 	if got := graph.Next(w, 1); !slices.Equal(got, []int{0}) {
 		t.Errorf("Next(1) = %v, want 0", got)
 	}
@@ -140,21 +140,21 @@ func TestAllCodeOfFewPlaces(t *testing.T) {
 }
 
 // some is code of n places without a pattern, of four kinds: with more or fewer jumps and ends, to near places or to any.
-func some(c *chance, n int) plain {
+func some(c *chart.Chance, n int) plain {
 	l := make(plain, n)
-	kind := c.below(4)
+	kind := c.Below(4)
 	for p := range l {
-		to := c.below(n + 1)
-		if kind > 1 || c.below(2) == 0 {
-			to = min(max(p+c.below(7)-3, 0), n)
+		to := c.Below(n + 1)
+		if kind > 1 || c.Below(2) == 0 {
+			to = min(max(p+c.Below(7)-3, 0), n)
 		}
-		switch k := c.below(12); {
+		switch k := c.Below(12); {
 		case k < 3 && kind != 1, k == 0:
-			l[p] = []api.Ins{beq(to), bne(to), blt(to)}[c.below(3)]
+			l[p] = []api.Ins{beq(to), bne(to), blt(to)}[c.Below(3)]
 		case k == 3 && kind == 0, k == 4 && kind != 3:
-			l[p] = []api.Ins{jump(to), jal(to)}[c.below(2)]
-		case k == 5 && c.below(2+kind) == 0:
-			l[p] = []api.Ins{halt(), jr(), stray()}[c.below(3)]
+			l[p] = []api.Ins{jump(to), jal(to)}[c.Below(2)]
+		case k == 5 && c.Below(2+kind) == 0:
+			l[p] = []api.Ins{halt(), jr(), stray()}[c.Below(3)]
 		case k > 6 && kind == 1:
 			l[p] = beq(to)
 		default:
@@ -165,10 +165,10 @@ func some(c *chance, n int) plain {
 }
 
 func TestCodeWithoutAPattern(t *testing.T) {
-	c := chance(1)
+	c := chart.Chance(1)
 	loops, heads, several, cyclic, backs, beyond := 0, 0, 0, 0, 0, 0
 	for k := range 4000 {
-		l := some(&c, 1+c.below(12+k%3*8))
+		l := some(&c, 1+c.Below(12+k%3*8))
 		check(t, l)
 		x := l.tell()
 		for head, loop := range x.loops {
@@ -200,13 +200,13 @@ func TestCodeWithoutAPattern(t *testing.T) {
 }
 
 func TestLongerCodeWithoutAPattern(t *testing.T) {
-	c := chance(2)
+	c := chart.Chance(2)
 	for k := range 10 {
 		check(t, some(&c, 60+k*8))
 	}
 	for range 40 {
-		l := some(&c, 200+c.below(300))
-		checkWhole(t, l, l.words(t), l.tell())
+		l := some(&c, 200+c.Below(300))
+		checkWhole(t, l, l.words(), l.tell())
 	}
 }
 
@@ -233,14 +233,14 @@ func TestNextOfEachOperation(t *testing.T) {
 // checkNext holds where it may go on from a place.
 func checkNext(t *testing.T, l plain, pc int) {
 	t.Helper()
-	if got, want := graph.Next(l.words(t), pc), l.next(pc); !slices.Equal(got, want) {
+	if got, want := graph.Next(l.words(), pc), l.next(pc); !slices.Equal(got, want) {
 		t.Fatalf("Next of %v at %d of %d = %v, want %v", l[pc], pc, len(l), got, want)
 	}
 }
 
 func TestNextByExactAnswers(t *testing.T) {
 	w := plain{nop(), beq(0), bne(4), blt(3), jump(1), jal(5), jr(), halt(), {Op: api.OpAddi, N: 3}, {Op: api.OpOri, N: 3}, {Op: api.OpLui, N: 3}, {Op: api.OpLw, N: 3}, {Op: api.OpSw, N: 3},
-		{Op: api.OpAdd, D: 1, A: 2, B: 3}, {Op: api.OpDiv}, {Op: api.OpHigh}, stray(), beq(18), beq(17), beq(20), blt(99), jump(21), jump(22), jal(65535), bne(25), nop()}.words(t)
+		{Op: api.OpAdd, D: 1, A: 2, B: 3}, {Op: api.OpDiv}, {Op: api.OpHigh}, stray(), beq(18), beq(17), beq(20), blt(99), jump(21), jump(22), jal(65535), bne(25), nop()}.words()
 	for pc, want := range [][]int{{1}, {0, 2}, {3, 4}, {3, 4}, {1}, {5}, nil, nil, {9}, {10}, {11}, {12}, {13}, {14}, {15}, {16}, nil, {18}, {17, 19}, {20}, {21}, {21}, {22}, nil, {25}, nil} {
 		if got := graph.Next(w, pc); !slices.Equal(got, want) {
 			t.Errorf("Next(%d) = %v, want %v", pc, got, want)
@@ -249,9 +249,9 @@ func TestNextByExactAnswers(t *testing.T) {
 }
 
 func TestNextOfWordsThatAreNoInstruction(t *testing.T) {
-	for _, w := range strays {
+	for _, w := range chart.Strays() {
 		for pc := range 3 {
-			words := plain{nop(), nop(), nop(), nop()}.words(t)
+			words := plain{nop(), nop(), nop(), nop()}.words()
 			words[pc] = w
 			if got := graph.Next(words, pc); len(got) != 0 {
 				t.Errorf("Next of %#x = %v", w, got)
@@ -267,7 +267,7 @@ func TestNextOfAPlaceThatTheCodeHasNot(t *testing.T) {
 	for n := range 5 {
 		l := plain(slices.Repeat([]api.Ins{beq(0)}, n))
 		for _, p := range append([]int{n, n + 1, 64, 65}, far...) {
-			checkNoPlace(t, l, l.words(t), p)
+			checkNoPlace(t, l, l.words(), p)
 		}
 	}
 }
@@ -276,7 +276,7 @@ func TestNextOfAPlaceThatTheCodeHasNot(t *testing.T) {
 func TestPlacesBeyondTheGreatestNumber(t *testing.T) {
 	l := append(plain{jump(65535)}, nops(65534)...)
 	l = append(l, beq(65535), beq(1), bne(65534), halt(), beq(65535))
-	w := l.words(t)
+	w := l.words()
 	for pc, want := range map[int][]int{0: {65535}, 65534: {65535}, 65535: {65535, 65536}, 65536: {1, 65537}, 65537: {65534, 65538}, 65538: nil, 65539: {65535}, 65540: nil} {
 		if got := graph.Next(w, pc); !slices.Equal(got, want) {
 			t.Errorf("Next(%d) = %v, want %v", pc, got, want)
@@ -301,7 +301,7 @@ func TestPlacesBeyondTheGreatestNumber(t *testing.T) {
 	if !graph.Ahead(w, 65536, 1) || graph.Ahead(w, 1, 65534) || graph.Ahead(w, 65539, 65539) || !graph.Cyclic(w) {
 		t.Error("Ahead")
 	}
-	if l[65535] = nop(); graph.Ahead(l.words(t), 65540, 0) || graph.Ahead(l.words(t), 0, 65540+1<<32) {
+	if l[65535] = nop(); graph.Ahead(l.words(), 65540, 0) || graph.Ahead(l.words(), 0, 65540+1<<32) {
 		t.Error("a place that the code has not stands ahead")
 	}
 }
@@ -322,7 +322,7 @@ func TestReachedOfCode(t *testing.T) {
 		{plain{jump(0), jump(0)}, []bool{true, false}},
 		{plain{nop(), halt(), beq(3), beq(2)}, []bool{true, true, false, false}},
 	} {
-		if got := graph.Reached(x.l.words(t)); !slices.Equal(got, x.want) {
+		if got := graph.Reached(x.l.words()); !slices.Equal(got, x.want) {
 			t.Errorf("of %v Reached = %v, want %v", x.l, got, x.want)
 		}
 		check(t, x.l)
@@ -333,7 +333,7 @@ func TestReachedOfCode(t *testing.T) {
 
 func TestAheadOfItselfAndOfPlacesThatAreNotReached(t *testing.T) {
 	l := plain{beq(3), nop(), jump(5), nop(), nop(), halt(), nop(), jump(6)}
-	w := l.words(t)
+	w := l.words()
 	for p := range l {
 		reached := p < 6
 		if got := graph.Ahead(w, p, p); got != reached {
@@ -361,7 +361,7 @@ func TestAheadOfPlacesThatTheCodeHasNot(t *testing.T) {
 		l := plain(nops(n))
 		for _, p := range append([]int{n, n + 1, 64*((n+63)/64) - 1}, far...) {
 			if p < 0 || p >= n {
-				checkNoPlace(t, l, l.words(t), p)
+				checkNoPlace(t, l, l.words(), p)
 			}
 		}
 	}
@@ -385,7 +385,7 @@ func TestBacksByExactAnswers(t *testing.T) {
 		{plain{jump(2), jump(3), nop(), beq(2), halt()}, []api.Fix{{At: 3, To: 2}}},
 		{plain{nop(), beq(3), nop(), nop()}, nil},
 	} {
-		if got := graph.Backs(x.l.words(t)); !slices.Equal(got, x.want) {
+		if got := graph.Backs(x.l.words()); !slices.Equal(got, x.want) {
 			t.Errorf("of %v Backs = %v, want %v", x.l, got, x.want)
 		}
 		check(t, x.l)
@@ -424,7 +424,7 @@ func TestLoopByExactAnswers(t *testing.T) {
 		{plain{jump(3), beq(3), halt(), beq(1), halt()}, 3, []int{1, 3}},
 		{plain{halt(), nop(), jump(1)}, 1, nil},
 	} {
-		if got := graph.Loop(x.l.words(t), x.head); !slices.Equal(got, x.want) {
+		if got := graph.Loop(x.l.words(), x.head); !slices.Equal(got, x.want) {
 			t.Errorf("of %v Loop(%d) = %v, want %v", x.l, x.head, got, x.want)
 		}
 		check(t, x.l)
@@ -457,7 +457,7 @@ func TestCyclicByExactAnswers(t *testing.T) {
 		{plain{jal(2), halt(), jr()}, false},
 		{plain{nop(), jr()}, false},
 	} {
-		if got := graph.Cyclic(x.l.words(t)); got != x.want {
+		if got := graph.Cyclic(x.l.words()); got != x.want {
 			t.Errorf("of %v Cyclic = %t", x.l, got)
 		}
 		check(t, x.l)
@@ -469,7 +469,7 @@ func TestCyclicByExactAnswers(t *testing.T) {
 func TestALongRow(t *testing.T) {
 	n := 1 << 20
 	l := append(plain(nops(n-1)), beq(0))
-	w := l.words(t)
+	w := l.words()
 	if got := graph.Backs(w); !slices.Equal(got, []api.Fix{{At: n - 1, To: 0}}) || !graph.Cyclic(w) {
 		t.Errorf("Backs = %v", got)
 	}
@@ -480,7 +480,7 @@ func TestALongRow(t *testing.T) {
 		t.Error("Ahead, or Reached")
 	}
 	l[n-1] = nop()
-	if graph.Cyclic(l.words(t)) || len(graph.Backs(l.words(t))) != 0 {
+	if graph.Cyclic(l.words()) || len(graph.Backs(l.words())) != 0 {
 		t.Error("a row is a circle")
 	}
 }
@@ -492,7 +492,7 @@ func TestALongRowTheOtherWayRound(t *testing.T) {
 	for p := 2; p < n; p++ {
 		l = append(l, jump(p-1))
 	}
-	w := l.words(t)
+	w := l.words()
 	if got := graph.Backs(w); !slices.Equal(got, []api.Fix{{At: 1, To: 2}, {At: 1, To: n - 1}}) {
 		t.Errorf("Backs = %v", got)
 	}
@@ -513,7 +513,7 @@ func TestLoopsWithinLoops(t *testing.T) {
 		want = append(want, api.Fix{At: len(l), To: p})
 		l = append(l, bne(p))
 	}
-	w := append(l, halt()).words(t)
+	w := append(l, halt()).words()
 	if got := graph.Backs(w); !slices.Equal(got, want) {
 		t.Errorf("there are %d backs", len(got))
 	}
@@ -534,7 +534,7 @@ func TestAWayOutOfEachPlace(t *testing.T) {
 	for range n {
 		l = append(l, beq(n))
 	}
-	w := append(l, beq(0), halt()).words(t)
+	w := append(l, beq(0), halt()).words()
 	if got := graph.Backs(w); !slices.Equal(got, []api.Fix{{At: n, To: 0}}) {
 		t.Errorf("Backs = %v", got)
 	}
@@ -546,10 +546,10 @@ func TestAWayOutOfEachPlace(t *testing.T) {
 // What holds of all calls.
 
 func TestWordsAreNeitherChangedNorKept(t *testing.T) {
-	c := chance(5)
+	c := chart.Chance(5)
 	for range 200 {
-		l := some(&c, 1+c.below(100))
-		w := l.words(t)
+		l := some(&c, 1+c.Below(100))
+		w := l.words()
 		same := slices.Clone(w)
 		backs, loop, reached, next := graph.Backs(w), graph.Loop(w, 0), graph.Reached(w), graph.Next(w, 0)
 		graph.Ahead(w, 0, 1)

@@ -2,11 +2,9 @@ package graph_test
 
 import (
 	"slices"
-	"testing"
 
 	"astrolabe/api"
 	"astrolabe/chart"
-	"astrolabe/code"
 )
 
 // The reckoning of the tests is the chapter's: from each place it is asked anew to which ones ways lead, without any order among them.
@@ -14,29 +12,11 @@ import (
 // noOperation stands in an instruction for a word that is none.
 const noOperation = 0
 
-// strays are words that are no instruction: of no operation, or with a bit that is told to be 0.
-var strays = []uint32{0, 1, 1<<26 - 1, 44 << 26, 63 << 26, 1<<32 - 1, 39<<26 + 1<<21, 39<<26 + 1<<16 + 2, 40<<26 + 1<<16, 43<<26 + 1, 42<<26 + 1<<25, 41<<26 + 1, 41<<26 + 1<<21, 1<<26 + 1, 24<<26 + 1<<11, 33<<26 + 1<<16}
-
 // plain is code, instruction by instruction.
 type plain []api.Ins
 
-// words are those of code; what is none has each of the strays in turn.
-func (l plain) words(t *testing.T) []uint32 {
-	t.Helper()
-	out := make([]uint32, len(l))
-	for k, i := range l {
-		if i.Op == noOperation {
-			out[k] = strays[k%len(strays)]
-			continue
-		}
-		w, e := code.Encode(i)
-		if e != api.OK {
-			t.Fatalf("Encode(%+v): %v", i, e)
-		}
-		out[k] = w
-	}
-	return out
-}
+// words are those of code.
+func (l plain) words() []uint32 { return chart.Words(l) }
 
 // next: the places to which it may go on from one.
 func (l plain) next(pc int) []int {
@@ -152,12 +132,4 @@ func (x told) loop(head int) []int {
 		}
 	}
 	return out
-}
-
-// chance tells numbers without a pattern.
-type chance uint32
-
-func (s *chance) below(n int) int {
-	*s = *s*1664525 + 1013904223
-	return int(*s>>8) % n
 }

@@ -5,6 +5,7 @@ import (
 	"testing"
 
 	"astrolabe/api"
+	"astrolabe/chart"
 	"astrolabe/core"
 	"astrolabe/graph"
 )
@@ -65,21 +66,21 @@ func (r *run) checkCome(t *testing.T) {
 }
 
 // runnable is code whose registers are loaded, and counted up or down, so that its branches go either way; if it does not go back, all that it may go on to stands behind.
-func runnable(c *chance, n int, back bool) (plain, []int32) {
+func runnable(c *chart.Chance, n int, back bool) (plain, []int32) {
 	data := make([]int32, 8)
 	for k := range data {
-		data[k] = int32(c.below(7) - 2)
+		data[k] = int32(c.Below(7) - 2)
 	}
 	l := some(c, n)
 	for p := range l {
 		i := &l[p]
 		switch i.Op {
 		case api.OpNop:
-			*i = []api.Ins{{Op: api.OpLw, D: 1 + c.below(3), N: c.below(8)}, {Op: api.OpAddi, D: 1, A: 1, N: -1}, {Op: api.OpAdd, D: 2, A: 1, B: 3}, nop()}[c.below(4)]
+			*i = []api.Ins{{Op: api.OpLw, D: 1 + c.Below(3), N: c.Below(8)}, {Op: api.OpAddi, D: 1, A: 1, N: -1}, {Op: api.OpAdd, D: 2, A: 1, B: 3}, nop()}[c.Below(4)]
 		case api.OpBeq, api.OpBne, api.OpBlt:
-			i.D, i.A = c.below(4), c.below(4)
+			i.D, i.A = c.Below(4), c.Below(4)
 		case api.OpJr:
-			i.A = 1 + c.below(3)
+			i.A = 1 + c.Below(3)
 		}
 		if !back && i.Op >= api.OpBeq && i.Op <= api.OpJal {
 			i.N = max(i.N, p+1)
@@ -89,28 +90,28 @@ func runnable(c *chance, n int, back bool) (plain, []int32) {
 }
 
 // orderly is code that goes on to places of greater ranks alone, which are without a pattern, so that it goes back, too, but to no place again.
-func orderly(c *chance, n int) plain {
+func orderly(c *chart.Chance, n int) plain {
 	ranks := make([]int, n)
 	for p := range ranks {
 		ranks[p] = p
 	}
 	for p := n - 1; p > 1; p-- {
-		q := 1 + c.below(p)
+		q := 1 + c.Below(p)
 		ranks[p], ranks[q] = ranks[q], ranks[p]
 	}
 	l := make(plain, n)
 	for p := range l {
-		to := c.below(n)
+		to := c.Below(n)
 		for k := 0; k < n && ranks[to] <= ranks[p]; k++ {
 			to = (to + 1) % n
 		}
 		switch on := p+1 < n && ranks[p+1] > ranks[p]; {
 		case ranks[to] <= ranks[p]:
 			l[p] = halt()
-		case on && c.below(3) == 0:
-			l[p] = api.Ins{Op: api.OpAddi, D: 1 + c.below(3), A: c.below(4), N: c.below(5) - 2}
+		case on && c.Below(3) == 0:
+			l[p] = api.Ins{Op: api.OpAddi, D: 1 + c.Below(3), A: c.Below(4), N: c.Below(5) - 2}
 		case on:
-			l[p] = api.Ins{Op: api.OpBeq + c.below(3), D: c.below(4), A: c.below(4), N: to}
+			l[p] = api.Ins{Op: api.OpBeq + c.Below(3), D: c.Below(4), A: c.Below(4), N: to}
 		default:
 			l[p] = jump(to)
 		}
@@ -126,11 +127,11 @@ func (l plain) hasJr() bool {
 // P18.4
 
 func TestEachStepOfARun(t *testing.T) {
-	c := chance(11)
+	c := chart.Chance(11)
 	steps, parted, beyond, jumped, astray := 0, 0, 0, 0, 0
 	for k := range 2000 {
-		l, data := runnable(&c, 2+c.below(30), k%3 > 0)
-		r := runOf(t, l.words(t), data)
+		l, data := runnable(&c, 2+c.Below(30), k%3 > 0)
+		r := runOf(t, l.words(), data)
 		r.checkCome(t)
 		free := true
 		for range 300 {
@@ -166,17 +167,17 @@ func TestEachStepOfARun(t *testing.T) {
 // P18.5
 
 func TestCodeThatIsNotCyclicIsRunThroughOnce(t *testing.T) {
-	c := chance(12)
+	c := chart.Chance(12)
 	once, again, back := 0, 0, 0
 	for k := range 6000 {
-		l, data := runnable(&c, 2+c.below(30), k%2 > 0)
+		l, data := runnable(&c, 2+c.Below(30), k%2 > 0)
 		if k%3 == 0 {
-			l = orderly(&c, 2+c.below(40))
+			l = orderly(&c, 2+c.Below(40))
 		}
 		if l.hasJr() {
 			continue
 		}
-		r := runOf(t, l.words(t), data)
+		r := runOf(t, l.words(), data)
 		cyclic := graph.Cyclic(r.w)
 		for range 300 {
 			from := r.c.PC()

@@ -551,42 +551,37 @@ func TestLinesThatAreMoved(t *testing.T) {
 }
 
 // chance makes numbers without a pattern.
-type chance uint32
+type chance struct{ chart.Chance }
 
-func (c *chance) below(n int) int {
-	*c = *c*1664525 + 1013904223
-	return int(*c>>8) % n
-}
-
-func (c *chance) of(l ...string) string { return l[c.below(len(l))] }
+func (c *chance) of(l ...string) string { return l[c.Below(len(l))] }
 
 // someLine is a line without a pattern; few of them are wrong.
 func someLine(c *chance) string {
 	name := c.of("a", "b", "loop", "loop_1", "x9", "end")
-	switch c.below(12) {
+	switch c.Below(12) {
 	case 0, 1:
-		return c.of(name, name, name, name+decimal(c.below(30))) + ":"
+		return c.of(name, name, name, name+decimal(c.Below(30))) + ":"
 	case 2, 3:
 		first := c.of("beq", "bne", "blt", "jump", "jal")
 		return first + " " + aimers[first] + "@" + name
 	case 4:
-		return c.of("word", "secret") + " " + decimal((c.below(1<<24)*256+c.below(256))-1<<31)
+		return c.of("word", "secret") + " " + decimal((c.Below(1<<24)*256+c.Below(256))-1<<31)
 	case 5:
-		return c.of("in", "out") + " " + decimal(c.below(4))
+		return c.of("in", "out") + " " + decimal(c.Below(4))
 	case 6:
 		return c.of("", "  ", "#", " # "+name)
 	}
-	op := 1 + c.below(43)
+	op := 1 + c.Below(43)
 	var fields [4]int
 	for k, letter := range []byte(chart.Shape(op)) {
 		low, high := chart.Bounds(letter)
-		fields[k] = low + c.below(high-low+1)
-		if c.below(500) == 0 {
+		fields[k] = low + c.Below(high-low+1)
+		if c.Below(500) == 0 {
 			fields[k] = high + 1
 		}
 	}
 	s := lineOf(op, fields)
-	if c.below(100) == 0 {
+	if c.Below(100) == 0 {
 		s += c.of(" ", " 0", " r1", ":", "@a", " @a")
 	}
 	return s
@@ -594,17 +589,17 @@ func someLine(c *chance) string {
 
 func TestTextsWithoutAPattern(t *testing.T) {
 	told := map[api.Errno]int{}
-	c := chance(7)
+	c := chance{7}
 	for range 40000 {
 		var b strings.Builder
-		if c.below(3) > 0 {
+		if c.Below(3) > 0 {
 			b.WriteString("word 1\nsecret 2\nword 3\nword 4\n")
 		}
-		for range c.below(20) {
-			b.WriteString(strings.Repeat(" ", c.below(20)/19) + someLine(&c) + "\n")
+		for range c.Below(20) {
+			b.WriteString(strings.Repeat(" ", c.Below(20)/19) + someLine(&c) + "\n")
 		}
 		s := b.String()
-		if c.below(2) == 0 {
+		if c.Below(2) == 0 {
 			for _, name := range []string{"a", "b", "loop", "loop_1", "x9", "end"} {
 				if !strings.Contains(s, name+":\n") {
 					s += name + ":\n"
@@ -628,11 +623,11 @@ func TestAnyBytes(t *testing.T) {
 			checkPlain(t, "a:\n"+s)
 		}
 	}
-	c := chance(1)
+	c := chance{1}
 	for range 20000 {
-		b := make([]byte, c.below(12))
+		b := make([]byte, c.Below(12))
 		for k := range b {
-			b[k] = byte(c.below(256))
+			b[k] = byte(c.Below(256))
 		}
 		checkPlain(t, string(b))
 		checkPlain(t, "nop\n"+string(b))

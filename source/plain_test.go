@@ -89,19 +89,9 @@ func decimal(n int) string {
 	return last
 }
 
-// opOf is the operation of a name.
-func opOf(name string) int {
-	for op := 1; op <= 43; op++ {
-		if chart.Name(op) == name {
-			return op
-		}
-	}
-	return 0
-}
-
 // insOf is the instruction of a line's words.
 func insOf(words []string) (op int, fields [4]int, e api.Errno) {
-	op = opOf(words[0])
+	op = chart.Op(words[0])
 	if op == 0 {
 		return 0, fields, api.ErrForm
 	}
@@ -176,7 +166,7 @@ func rowOf(words []string, m *api.Image) (row, api.Errno) {
 			return row{}, api.ErrForm
 		}
 		return row{name: name}, api.OK
-	case isAimer(opOf(words[0])) && last[0] == '@':
+	case isAimer(chart.Op(words[0])) && last[0] == '@':
 		op, fields, e := insOf(append(slices.Clone(words[:len(words)-1]), "0"))
 		if e == api.OK && !chart.IsName(last[1:]) {
 			e = api.ErrForm

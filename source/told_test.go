@@ -33,9 +33,9 @@ func rising(from, n int) []int {
 // most is an image that has as much of everything as may be.
 func most() api.Image {
 	m := api.Image{Secret: make([]bool, 2048), In: rising(1793, 255), Out: make([]int, 255)}
-	c := chance(3)
+	c := chance{3}
 	for k := range 2048 {
-		m.Data = append(m.Data, int32(c.below(1<<24)*256+k))
+		m.Data = append(m.Data, int32(c.Below(1<<24)*256+k))
 		m.Secret[k] = k%3 == 1
 	}
 	slices.Reverse(m.In)
@@ -47,11 +47,11 @@ func most() api.Image {
 
 // someWord is an instruction's, without a pattern.
 func someWord(c *chance) uint32 {
-	op := 1 + c.below(43)
+	op := 1 + c.Below(43)
 	var fields [4]int
 	for k, letter := range []byte(chart.Shape(op)) {
 		low, high := chart.Bounds(letter)
-		fields[k] = low + c.below(high-low+1)
+		fields[k] = low + c.Below(high-low+1)
 	}
 	return chart.Word(op, fields)
 }
@@ -125,13 +125,13 @@ func TestTextByExactAnswers(t *testing.T) {
 }
 
 func TestTextOfWordsOfData(t *testing.T) {
-	c := chance(11)
+	c := chance{11}
 	l := []int32{0, 1, -1, 9, 10, -9, -10, wordMax, wordMax - 1, wordMin, wordMin + 1}
 	for n := 10; n < wordMax; n *= 10 {
 		l = append(l, int32(n-1), int32(n), int32(n+1), int32(1-n), int32(-n), int32(-n-1))
 	}
 	for range 500 {
-		l = append(l, int32(c.below(1<<24)*256+c.below(256)-1<<31))
+		l = append(l, int32(c.Below(1<<24)*256+c.Below(256)-1<<31))
 	}
 	for _, x := range l {
 		checkText(t, dataOf(x), "word "+decimal(int(x))+"\n")
@@ -290,31 +290,31 @@ func TestAllShortCodes(t *testing.T) {
 
 // without are images without a pattern; most of them have a text.
 func without(n int, do func(m api.Image)) {
-	c := chance(99)
+	c := chance{99}
 	for range n {
 		var m api.Image
-		size := c.below(12)
+		size := c.Below(12)
 		for range size {
 			w := someWord(&c)
-			if op, fields, _ := decoded(w); isAimer(op) && c.below(4) > 0 {
-				fields[3] = c.below(size + 2)
+			if op, fields, _ := decoded(w); isAimer(op) && c.Below(4) > 0 {
+				fields[3] = c.Below(size + 2)
 				w = chart.Word(op, fields)
 			}
-			if c.below(60) == 0 {
-				w = uint32(c.below(1<<24)*256 + c.below(256))
+			if c.Below(60) == 0 {
+				w = uint32(c.Below(1<<24)*256 + c.Below(256))
 			}
 			m.Code = append(m.Code, w)
 		}
-		size = 1 + c.below(20)
+		size = 1 + c.Below(20)
 		for range size {
-			m.Data = append(m.Data, int32(c.below(1<<24)*256+c.below(256)-1<<31))
-			m.Secret = append(m.Secret, c.below(2) == 1)
+			m.Data = append(m.Data, int32(c.Below(1<<24)*256+c.Below(256)-1<<31))
+			m.Secret = append(m.Secret, c.Below(2) == 1)
 		}
-		for range c.below(4) {
-			m.In = append(m.In, c.below(size))
+		for range c.Below(4) {
+			m.In = append(m.In, c.Below(size))
 		}
-		for range c.below(9) {
-			m.Out = append(m.Out, c.below(size+c.below(40)/39))
+		for range c.Below(9) {
+			m.Out = append(m.Out, c.Below(size+c.Below(40)/39))
 		}
 		do(m)
 	}
@@ -371,12 +371,12 @@ func checkBack(t *testing.T, m api.Image) {
 
 // What a text with names, remarks and blanks is parsed to has a text without them, which is parsed to the same.
 func TestTextsOfOtherTexts(t *testing.T) {
-	c := chance(5)
+	c := chance{5}
 	n := 0
 	for range 5000 {
 		s := "word 1\nsecret 2\nword 3\nword 4\n"
-		for range c.below(20) {
-			s += strings.Repeat(" ", c.below(2)) + someLine(&c) + "\n"
+		for range c.Below(20) {
+			s += strings.Repeat(" ", c.Below(2)) + someLine(&c) + "\n"
 		}
 		m, _, e := source.Parse(s)
 		if e != api.OK {
